@@ -122,3 +122,21 @@ func TestNoDirectives(t *testing.T) {
 		}
 	})
 }
+
+// A listed call leaves it to inner functions to tell of which type something is.
+func TestNoAssertionsInListedCalls(t *testing.T) {
+	parsed(t, func(path string, places *token.FileSet, file *ast.File) {
+		for _, decl := range file.Decls {
+			f, ok := decl.(*ast.FuncDecl)
+			if !ok || !f.Name.IsExported() {
+				continue
+			}
+			ast.Inspect(f, func(n ast.Node) bool {
+				if a, ok := n.(*ast.TypeAssertExpr); ok {
+					t.Errorf("%s asserts a type in %s", places.Position(a.Pos()), f.Name.Name)
+				}
+				return true
+			})
+		}
+	})
+}
