@@ -16,7 +16,7 @@ import (
 )
 
 // layers are the packages of the program; each may import those ahead of it.
-var layers = strings.Fields("api octet tower pack span linpoly novel antt code weave perm sponge merkle multi talk cube expr line turn packv sumcheck zero claim ring pcs circuit lang witness gadget proof prove verify count frob judge")
+var layers = strings.Fields("api octet tower pack span linpoly novel antt code weave perm sponge merkle multi talk cube expr line turn packv sumcheck zero claim ring pcs circuit lang witness gadget proof prove trial verify count frob judge")
 
 // library are the packages of Go's library that may be imported.
 var library = strings.Fields("bytes cmp container/heap errors iter maps math math/bits slices sort strconv strings sync sync/atomic unicode unicode/utf8")
