@@ -122,6 +122,18 @@ func TestZeros(t *testing.T) {
 	}
 }
 
+// 32.2, 32.3: one gate alone, with one condition or two.
+func TestZerosOfOneGate(t *testing.T) {
+	for _, g := range []api.Gate{{Kind: api.GateSame, B: 1}, {Kind: api.GateAnd, Dst: 2, B: 1}, {Kind: api.GateRound, Dst: 2, S: 1}, {Kind: api.GateAdd, Dst: 2, B: 1, S: 3}} {
+		s := api.System{Wide: 1, Cols: 2, Private: 2, Gates: []api.Gate{g}}
+		for n := range uint64(256) {
+			if n%5 == 0 {
+				checkZeros(t, 1, s, [][]uint64{{n & 3}, {n >> 2 & 3}, {n >> 4 & 3}, {n >> 6}})
+			}
+		}
+	}
+}
+
 // 32.2, 32.3: drawn columns, some of which hold, of systems with each kind of gate.
 func TestZerosOfDrawnColumns(t *testing.T) {
 	rnd := rand.New(rand.NewPCG(32, 2))

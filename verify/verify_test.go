@@ -495,6 +495,28 @@ func drawn(rnd *rand.Rand) (api.System, [][]uint64) {
 	return s, given
 }
 
+// The whole: the adder of words of 4 bits holds for a 9, b 8, s 1; its proof is accepted at each level that has room for it, and with a bit of Value turned it is rejected, or its bytes are no proof's.
+func TestExamples(t *testing.T) {
+	s, _, _ := gadget.Adder(2, 0)
+	for level := 2; level <= 5; level++ {
+		p := api.Params{Level: level, Rows: min(1, 5-level), Rate: 1, Queries: 5}
+		c := proved(t, p, s, [][]uint64{{9}, {1}, {8}})
+		a, b, w, d := c.bytes(t)
+		if n, e := verify.Verify(a, b, w, d); n != verify.Accept || e != api.OK {
+			t.Errorf("level %d: %d, %v", level, n, e)
+		}
+		if _, e := prove.Prove(tables, p, s, [][]uint64{{9}, {2}, {8}}); e != api.ErrRule {
+			t.Errorf("level %d, another sum: %v", level, e)
+		}
+		for bit := range 1 << level {
+			bad := c.with(func(x *api.Proof) { x.Value.Lo ^= 1 << bit })
+			if e := bad.check(t); e != api.ErrProof {
+				t.Errorf("level %d, the bit %d of Value: %v", level, bit, e)
+			}
+		}
+	}
+}
+
 // 31.3, 31.4: what is proved is accepted, and has no more than Bytes; with one place alone it has just as many.
 func TestAcceptedProofs(t *testing.T) {
 	rnd := rand.New(rand.NewPCG(31, 2))
